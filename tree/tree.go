@@ -2,6 +2,8 @@
 package tree
 
 import (
+	"strings"
+
 	"moat/api"
 	"moat/lex"
 )
@@ -23,6 +25,26 @@ const stuck = "no file goes on so"
 type Node struct {
 	Tokens []api.Token // its own ones, but signs
 	Parts  []Node      // what it is made of, from left to right
+}
+
+// Words are a node's own tokens as they stand in a description, with a blank between.
+func (n Node) Words() string {
+	var words strings.Builder
+	for i, token := range n.Tokens {
+		if i > 0 {
+			words.WriteString(" ")
+		}
+		words.WriteString(written(token))
+	}
+	return words.String()
+}
+
+// written gives a text the quotes back that its token is told without.
+func written(token api.Token) string {
+	if token.Kind == api.TokText {
+		return "\"" + token.Text + "\""
+	}
+	return token.Text
 }
 
 // Read lists the items of a description, or tells what is wrong (P10.1).

@@ -39,6 +39,21 @@ func TestRead(t *testing.T) {
 	}
 }
 
+func TestWords(t *testing.T) {
+	for want, node := range map[string]Node{
+		"":                             {},
+		"own":                          leaf(word("own")),
+		"cors any":                     leaf(word("cors"), word("any")),
+		`csp "x y"`:                    leaf(word("csp"), one(api.TokText, `"x`, "x y")),
+		`endpoint e1 at o1 GET "/" ""`: leaf(word("endpoint"), name("e1"), word("at"), name("o1"), one(api.TokCaps, "GET", "GET"), one(api.TokText, `"/`, "/"), api.Token{Kind: api.TokText}),
+		"not":                          {[]api.Token{word("not")}, []Node{leaf(word("knows"), name("a1"))}},
+	} {
+		if got := node.Words(); got != want {
+			t.Errorf("P10.1, P11.1: Words of %v: %q; wanted %q", node, got, want)
+		}
+	}
+}
+
 func TestReadOfWhatIsWrong(t *testing.T) {
 	for s, want := range map[string]api.Wrong{
 		"network; @":                  {Code: api.ErrChar, At: 9},
